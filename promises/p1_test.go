@@ -1,0 +1,160 @@
+package promises
+
+import (
+	"errors"
+	"math"
+	"slices"
+	"strings"
+	"testing"
+
+	"skipper/api"
+	"skipper/skipper"
+)
+
+func TestPackNeverPanics(t *testing.T) {
+	numbers := []int{math.MinInt, math.MinInt + 1, -65536, -1, 0, 1, 2, 99, 100, 101, 1023, 1024, 1025, 65535, 65536, 1 << 31, 1 << 32, math.MaxInt - 1, math.MaxInt}
+	texts := []string{"", "\x00", "a", "\xff\xfe", strings.Repeat("a", 1024), strings.Repeat("\xff", 20000), strings.Repeat("x", 20001), strings.Repeat("ab", 100000)}
+	for _, data := range texts {
+		for _, size := range numbers {
+			for _, every := range numbers {
+				file, err := skipper.Pack(data, size, every)
+				wrong := len(data) > 20000 || size < 1 || size > 1024 || every < 1 || every > 100
+				if err != nil && (err != api.ErrSize || file != "") || err == nil && (wrong || !strings.HasPrefix(file, "SK1")) {
+					t.Errorf("P1: Pack of %d bytes, %d, %d = %d bytes, %v", len(data), size, every, len(file), err)
+				}
+			}
+		}
+	}
+}
+
+func TestOpenNeverPanics(t *testing.T) {
+	errs := []error{api.ErrSize, api.ErrMagic, api.ErrHeader, api.ErrEnd}
+	for seed := range uint32(3000) {
+		for _, start := range []string{"", "SK1", "SK1" + block(1, 6, one), "SK1\x01\x06\x00", "SK1\x01\x06\x00\x00\x00"} {
+			file := start + noise(seed, []uint32{2, 3, 256}[seed%3], int(seed%60))
+			f, err := skipper.Open(file)
+			if err != nil && (f != nil || !slices.Contains(errs, err)) || err == nil && f == nil {
+				t.Fatalf("P1: Open(%q) = a file: %v, %v", file, f != nil, err)
+			}
+			if f != nil && (f.Size() < 0 || f.Size() < len(f.Blocks())) {
+				t.Fatalf("P1: Open(%q): Size %d, Blocks %v", file, f.Size(), f.Blocks())
+			}
+		}
+	}
+}
+
+// Just the errors of package api are answered, not ones that wrap them.
+func TestErrorsAsTheyAre(t *testing.T) {
+	_, packed := skipper.Pack("", 0, 0)
+	_, long := skipper.Open(strings.Repeat("x", 65537))
+	_, magic := skipper.Open("")
+	_, end := skipper.Open("SK1\x01")
+	_, head := skipper.Open("SK1" + block(2, 1, ""))
+	for i, pair := range [][2]error{{packed, api.ErrSize}, {long, api.ErrSize}, {magic, api.ErrMagic}, {end, api.ErrEnd}, {head, api.ErrHeader}} {
+		var d *api.Damage
+		if pair[0] != pair[1] || errors.As(pair[0], &d) {
+			t.Errorf("P1: %d: %v, want %v", i, pair[0], pair[1])
+		}
+	}
+}
+
+// scribble writes over a list and all its spare room.
+func scribble(list []api.Block) {
+	list = list[:cap(list)]
+	for i := range list {
+		list[i] = api.Block{From: -1, Size: -2, At: -3, Fresh: !list[i].Fresh}
+	}
+}
+
+func TestBlocksAreNew(t *testing.T) {
+	for count := range 40 {
+		file := "SK1"
+		for i := range count {
+			file += block(byte((i+1)%2), i+1, "xyz")
+		}
+		want, size, _ := wantOpened(file)
+		f, g := open(t, file), open(t, file)
+		kept := f.Blocks()
+		scribble(f.Blocks())
+		scribble(g.Blocks())
+		first, second := append(f.Blocks(), api.Block{From: 1}), append(f.Blocks(), api.Block{From: 2})
+		if first[count].From != 1 || second[count].From != 2 || !slices.Equal(first[:count], want) || !slices.Equal(second[:count], want) {
+			t.Errorf("P1: %d blocks: two answers share their spare room: %v, %v", count, first, second)
+		}
+		spare := f.Blocks()
+		spare = spare[:cap(spare)]
+		before := slices.Clone(spare)
+		scribble(f.Blocks())
+		if !slices.Equal(spare, before) {
+			t.Errorf("P1: %d blocks: two answers share memory", count)
+		}
+		for _, list := range [][]api.Block{kept, f.Blocks(), g.Blocks(), open(t, file).Blocks()} {
+			if !slices.Equal(list, want) {
+				t.Errorf("P1: %d blocks: an answer was changed from outside: %v, want %v", count, list, want)
+			}
+		}
+		if f.Size() != size || g.Size() != size {
+			t.Errorf("P1: %d blocks: Size %d and %d, want %d", count, f.Size(), g.Size(), size)
+		}
+	}
+}
+
+func TestFilesKnowNothingOfOneAnother(t *testing.T) {
+	texts := []string{"SK1", "SK1" + block(1, 6, one), "SK1" + block(1, 6, one) + block(0, 6, two), "SK1" + block(1, 9, one) + block(1, 1024, two) + block(0, 3, "")}
+	var files []*skipper.File
+	for _, text := range texts {
+		files = append(files, open(t, text))
+		if f, err := skipper.Open(text + "x"); f != nil || err != api.ErrEnd {
+			t.Errorf("P1: Open(%q) = a file: %v, %v", text+"x", f != nil, err)
+		}
+	}
+	for range 2 {
+		for i, f := range files {
+			want, size, _ := wantOpened(texts[i])
+			if f.Size() != size || !slices.Equal(f.Blocks(), want) {
+				t.Errorf("P1: file %d: Size %d, Blocks %v, want %d, %v", i, f.Size(), f.Blocks(), size, want)
+			}
+		}
+		slices.Reverse(files)
+		slices.Reverse(texts)
+	}
+}
+
+// What was asked ahead changes no answer.
+func TestPackAgain(t *testing.T) {
+	asks := []packCase{{"abcabcabcabc", 12, 1, ""}, {"abcabcabcabc", 6, 2, ""}, {"", 5, 1, ""}, {strings.Repeat("xy", 900), 700, 2, ""}, {"abcdabcd", 4, 100, ""}}
+	for range 3 {
+		for _, c := range asks {
+			if got := pack(t, c.data, c.size, c.every); got != wantPacked(c.data, c.size, c.every) {
+				t.Errorf("P1: Pack(%.30q, %d, %d) = %.100q", c.data, c.size, c.every, got)
+			}
+			if got, err := skipper.Pack(c.data, 1025, c.every); got != "" || err != api.ErrSize {
+				t.Errorf("P1: Pack(%.30q, 1025, %d) = %q, %v", c.data, c.every, got, err)
+			}
+		}
+		slices.Reverse(asks)
+	}
+}
+
+// Nothing that is asked changes what another call answers, at the same time too.
+func TestAskedByManyAtOnce(t *testing.T) {
+	f := open(t, "SK1"+block(1, 6, one)+block(0, 6, two))
+	want := f.Blocks()
+	done := make(chan bool)
+	for range 8 {
+		go func() {
+			ok := true
+			for range 200 {
+				list := f.Blocks()
+				ok = ok && f.Size() == 12 && slices.Equal(list, want)
+				scribble(list)
+			}
+			done <- ok
+		}()
+	}
+	for range 8 {
+		if !<-done {
+			t.Error("P1: an answer was changed by one who asked at the same time")
+		}
+	}
+}
