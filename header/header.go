@@ -16,7 +16,7 @@ type Header struct {
 
 // Of makes the header of a block of that size from its packed bytes.
 func Of(fresh bool, size int, packed []byte) Header {
-	return Header{Fresh: fresh, Size: size, Packed: len(packed), Sum: sum(packed)}
+	return Header{Fresh: fresh, Size: size, Packed: len(packed), Sum: Sum(packed)}
 }
 
 // AppendTo writes the header behind what the file has so far.

@@ -4,7 +4,8 @@ package header
 // fit into two bytes each.
 const modulus = 65521
 
-func sum(packed []byte) uint32 {
+// Sum tells the sum of packed bytes.
+func Sum(packed []byte) uint32 {
 	a, b := uint32(1), uint32(0)
 	for _, c := range packed {
 		a = (a + uint32(c)) % modulus

@@ -43,6 +43,31 @@ func TestOpenNeverPanics(t *testing.T) {
 	}
 }
 
+func TestReadNeverPanics(t *testing.T) {
+	numbers := []int{math.MinInt, math.MinInt + 1, -20001, -2, -1, 0, 1, 2, 3, 7, 19999, 20000, 20001, 1 << 31, 1 << 32, 1 << 62, math.MaxInt - 1, math.MaxInt}
+	for seed := range uint32(3000) {
+		file := "SK1"
+		for i := range seed % 4 {
+			packed := noise(seed+i, []uint32{3, 140, 256}[seed%3], int((seed+i)%12))
+			file += block(byte(1-i%2), 1+int(seed%8), packed)
+		}
+		f := open(t, file)
+		for _, from := range numbers {
+			for _, count := range numbers {
+				var d *api.Damage
+				data, err := f.ReadAt(from, count)
+				here := from >= 0 && count >= 0 && from <= f.Size() && count <= f.Size()-from
+				if err != nil && data != "" || !here && err != api.ErrRange || here && err != nil && !errors.As(err, &d) || err == nil && len(data) != count {
+					t.Fatalf("P1: %q: ReadAt(%d, %d) = %q, %v", file, from, count, data, err)
+				}
+			}
+		}
+		if list := f.Check(); !slices.IsSorted(list) || len(list) > len(f.Blocks()) {
+			t.Fatalf("P1: %q: Check() = %v", file, list)
+		}
+	}
+}
+
 // Just the errors of package api are answered, not ones that wrap them.
 func TestErrorsAsTheyAre(t *testing.T) {
 	_, packed := skipper.Pack("", 0, 0)
@@ -50,7 +75,8 @@ func TestErrorsAsTheyAre(t *testing.T) {
 	_, magic := skipper.Open("")
 	_, end := skipper.Open("SK1\x01")
 	_, head := skipper.Open("SK1" + block(2, 1, ""))
-	for i, pair := range [][2]error{{packed, api.ErrSize}, {long, api.ErrSize}, {magic, api.ErrMagic}, {end, api.ErrEnd}, {head, api.ErrHeader}} {
+	_, span := open(t, "SK1"+block(1, 1, "")).ReadAt(0, 2)
+	for i, pair := range [][2]error{{packed, api.ErrSize}, {long, api.ErrSize}, {magic, api.ErrMagic}, {end, api.ErrEnd}, {head, api.ErrHeader}, {span, api.ErrRange}} {
 		var d *api.Damage
 		if pair[0] != pair[1] || errors.As(pair[0], &d) {
 			t.Errorf("P1: %d: %v, want %v", i, pair[0], pair[1])
@@ -99,6 +125,78 @@ func TestBlocksAreNew(t *testing.T) {
 	}
 }
 
+func TestNumbersAreNew(t *testing.T) {
+	for count := 1; count < 40; count++ {
+		kinds := "S" + strings.Repeat("g", count-1)
+		var want []int
+		for i := range count {
+			want = append(want, i)
+		}
+		f, g := open(t, fileOf(kinds)), open(t, fileOf(kinds))
+		kept := f.Check()
+		other := f.Check()
+		other = other[:cap(other)]
+		for i := range other {
+			other[i] = -9
+		}
+		first, second := append(f.Check(), 1), append(f.Check(), 2)
+		if first[count] != 1 || second[count] != 2 || slices.Contains(kept[:cap(kept)], -9) {
+			t.Errorf("P1: %d numbers: two answers share memory: %v, %v, %v", count, first, second, kept[:cap(kept)])
+		}
+		for _, list := range [][]int{kept, f.Check(), g.Check()} {
+			if !slices.Equal(list, want) {
+				t.Errorf("P1: %d numbers: an answer was changed from outside: %v", count, list)
+			}
+		}
+	}
+}
+
+func TestDamageIsNew(t *testing.T) {
+	f, g := open(t, fileOf("GsGt")), open(t, fileOf("GsGt"))
+	for _, h := range []*skipper.File{f, g, f} {
+		for i, why := range []error{api.ErrSum, api.ErrToken} {
+			_, err := h.ReadAt(8*i+4, 4)
+			var d *api.Damage
+			if !errors.As(err, &d) {
+				t.Fatalf("P1: %v is no damage", err)
+			}
+			d.Block, d.Err = 77, api.ErrRange
+			tryDamage(t, f, 8*i+4, 4, 2*i+1, why)
+			tryDamage(t, g, 8*i+4, 4, 2*i+1, why)
+		}
+	}
+	if list := f.Check(); !slices.Equal(list, []int{1, 3}) {
+		t.Errorf("P1: Check() = %v", list)
+	}
+}
+
+// A file answers the same, whatever was asked of it, or of others, ahead.
+func TestReadAgain(t *testing.T) {
+	var files []*skipper.File
+	var tolds [][]told
+	for seed := range uint32(60) {
+		files = append(files, open(t, drawn(seed)))
+		tolds = append(tolds, wantBlocks(drawn(seed)))
+	}
+	for ask := range 6000 {
+		i := ask * 7919 % len(files)
+		f, all := files[i], tolds[i]
+		from := ask * 31 % f.Size()
+		switch count := 1 + ask*17%(f.Size()-from); ask % 5 {
+		case 0:
+			if got, want := f.Check(), wantCheck(all); !slices.Equal(got, want) {
+				t.Errorf("P1: Check() = %v, want %v", got, want)
+			}
+		case 1:
+			tryRange(t, f, from, f.Size()-from+1)
+		case 2:
+			tryRead(t, f, from, 0, "")
+		default:
+			tryAsTold(t, f, all, from, count)
+		}
+	}
+}
+
 func TestFilesKnowNothingOfOneAnother(t *testing.T) {
 	texts := []string{"SK1", "SK1" + block(1, 6, one), "SK1" + block(1, 6, one) + block(0, 6, two), "SK1" + block(1, 9, one) + block(1, 1024, two) + block(0, 3, "")}
 	var files []*skipper.File
@@ -138,7 +236,7 @@ func TestPackAgain(t *testing.T) {
 
 // Nothing that is asked changes what another call answers, at the same time too.
 func TestAskedByManyAtOnce(t *testing.T) {
-	f := open(t, "SK1"+block(1, 6, one)+block(0, 6, two))
+	f := open(t, "SK1"+block(1, 6, one)+block(0, 6, two)+block(0, 1, "x")+block(1, 1, "\x00x"))
 	want := f.Blocks()
 	done := make(chan bool)
 	for range 8 {
@@ -146,8 +244,15 @@ func TestAskedByManyAtOnce(t *testing.T) {
 			ok := true
 			for range 200 {
 				list := f.Blocks()
-				ok = ok && f.Size() == 12 && slices.Equal(list, want)
+				ok = ok && f.Size() == 14 && slices.Equal(list, want)
 				scribble(list)
+				data, err := f.ReadAt(4, 4)
+				ok = ok && data == "bcab" && err == nil
+				data, err = f.ReadAt(4, 9)
+				ok = ok && data == "" && errors.Is(err, api.ErrToken)
+				bad := f.Check()
+				ok = ok && slices.Equal(bad, []int{2})
+				bad[0] = 9
 			}
 			done <- ok
 		}()

@@ -119,6 +119,106 @@ func wantOpened(file string) ([]api.Block, int, error) {
 	return list, data, nil
 }
 
+// told is a block as the document tells it: its data, or why it is bad, or that
+// it follows one that is.
+type told struct {
+	api.Block
+	data    string
+	why     error
+	follows bool
+}
+
+// wantBlocks goes through the blocks of a file that can be opened.
+func wantBlocks(file string) []told {
+	list, _, _ := wantOpened(file)
+	var all []told
+	ahead, lost := "", false // from the last fresh block on
+	for i, b := range list {
+		if b.Fresh {
+			ahead, lost = "", false
+		}
+		end := len(file)
+		if i+1 < len(list) {
+			end = list[i+1].At
+		}
+		packed := file[b.At+9 : end]
+		one := told{Block: b, follows: lost}
+		if binary.LittleEndian.Uint32([]byte(file[b.At+5:])) != adler32.Checksum([]byte(packed)) {
+			one.why = api.ErrSum
+		} else if data, good := wantUnpacked(ahead, packed, b.Size); !good {
+			one.why = api.ErrToken
+		} else {
+			one.data = data
+		}
+		ahead += one.data
+		lost = lost || one.why != nil
+		all = append(all, one)
+	}
+	return all
+}
+
+// wantUnpacked unpacks a block by the document's words, behind what is unpacked
+// from the last fresh block on.
+func wantUnpacked(ahead, packed string, size int) (string, bool) {
+	out := []byte(ahead)
+	for packed != "" {
+		c := int(packed[0])
+		if c < 128 {
+			if len(packed) < c+2 {
+				return "", false
+			}
+			out = append(out, packed[1:c+2]...)
+			packed = packed[c+2:]
+			continue
+		}
+		if len(packed) < 3 {
+			return "", false
+		}
+		d := int(packed[1]) + 256*int(packed[2])
+		if d == 0 || d > len(out) {
+			return "", false
+		}
+		for range c - 124 {
+			out = append(out, out[len(out)-d])
+		}
+		packed = packed[3:]
+	}
+	data := string(out[len(ahead):])
+	return data, len(data) == size
+}
+
+// wantRead reads count bytes, which must be there and more than none: the
+// bytes, or the number of the bad block and why it is.
+func wantRead(all []told, from, count int) (string, int, error) {
+	first, last, data := 0, 0, ""
+	for i, b := range all {
+		if b.From <= from && b.Fresh {
+			first = i
+		}
+		if b.From < from+count {
+			last = i
+		}
+	}
+	for i := first; i <= last; i++ {
+		if all[i].why != nil {
+			return "", i, all[i].why
+		}
+		data += all[i].data
+	}
+	start := from - all[first].From
+	return data[start : start+count], 0, nil
+}
+
+func wantCheck(all []told) []int {
+	var list []int
+	for i, b := range all {
+		if b.why != nil || b.follows {
+			list = append(list, i)
+		}
+	}
+	return list
+}
+
 func pack(t *testing.T, data string, size, every int) string {
 	t.Helper()
 	file, err := skipper.Pack(data, size, every)

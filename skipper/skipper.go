@@ -26,6 +26,7 @@ func Pack(data string, block int, every int) (string, error) {
 // File is a packed file. Size and Blocks (P3) are those of its index.
 type File struct {
 	index
+	text string
 }
 
 // Open opens a file (P3).
@@ -40,14 +41,43 @@ func Open(file string) (*File, error) {
 	if err != nil {
 		return nil, err
 	}
-	return &File{index: blocks}, nil
+	// A copy, because what is handed in is not kept.
+	return &File{index: blocks, text: strings.Clone(file)}, nil
 }
 
 // ReadAt reads a part (P4).
-func (f *File) ReadAt(from int, count int) (string, error) { return "", nil }
+func (f *File) ReadAt(from int, count int) (string, error) {
+	// Not by from + count, which may be too great for an int.
+	if from < 0 || count < 0 || count > f.Size()-from {
+		return "", api.ErrRange
+	}
+	if count == 0 {
+		return "", nil
+	}
+	first := f.lastFresh(f.blockOf(from))
+	data, err := f.unpack(first, f.blockOf(from+count-1))
+	if err != nil {
+		return "", err
+	}
+	start := from - f.entries[first].From
+	return string(data[start : start+count]), nil
+}
 
 // Check tells which blocks cannot be read (P5).
-func (f *File) Check() []int { return nil }
+func (f *File) Check() []int {
+	var list []int
+	for first := 0; first < len(f.entries); {
+		next := f.nextFresh(first)
+		_, err := f.unpack(first, next-1)
+		if n, bad := damagedBlock(err); bad {
+			for ; n < next; n++ {
+				list = append(list, n)
+			}
+		}
+		first = next
+	}
+	return list
+}
 
 // Chunks yields the data of blocks (P6).
 func (f *File) Chunks(from int) iter.Seq2[int, string] { return func(yield func(int, string) bool) {} }

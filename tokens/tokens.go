@@ -1,4 +1,4 @@
-// Package tokens packs the data of a block into runs and copies.
+// Package tokens packs the data of a block into runs and copies, and unpacks them.
 package tokens
 
 import "skipper/api"
