@@ -65,6 +65,12 @@ func TestReadNeverPanics(t *testing.T) {
 		if list := f.Check(); !slices.IsSorted(list) || len(list) > len(f.Blocks()) {
 			t.Fatalf("P1: %q: Check() = %v", file, list)
 		}
+		for _, from := range numbers {
+			list := taken(f.Chunks(from), -1)
+			if len(list) > len(f.Blocks()) || len(list) > 0 && (from < 0 || from >= f.Size()) {
+				t.Fatalf("P1: %q: Chunks(%d) = %v", file, from, list)
+			}
+		}
 	}
 }
 
@@ -170,6 +176,50 @@ func TestDamageIsNew(t *testing.T) {
 	}
 }
 
+// What is asked while chunks are gone through changes none of them, nor do
+// they change what is answered.
+func TestAskedWithinChunks(t *testing.T) {
+	file := fileOf("GggGgtG")
+	f, g, told := open(t, file), open(t, fileOf("Sg")), wantBlocks(file)
+	var got []chunk
+	for number, data := range f.Chunks(1) {
+		got = append(got, chunk{number, data})
+		scribble(f.Blocks())
+		if list := f.Check(); !slices.Equal(list, []int{5}) {
+			t.Errorf("P1: Check() within chunks = %v", list)
+		}
+		tryRead(t, f, 4*number, 4, "abcd")
+		tryDamage(t, f, 4*number, 24-4*number, 5, api.ErrToken)
+		tryDamage(t, g, 4, 4, 0, api.ErrSum)
+		tryChunks(t, g, 0)
+		tryChunks(t, f, 24, chunk{6, "abcd"})
+	}
+	if !slices.Equal(got, wantChunks(told, 1)) || len(got) != 5 {
+		t.Errorf("P1: Chunks(1), others asked within: %v", got)
+	}
+}
+
+// One who leaves by a panic leaves the file as it was, and gets just this panic.
+func TestChunksLeftByPanic(t *testing.T) {
+	f := open(t, "SK1"+strings.Join(four, ""))
+	all := f.Chunks(6)
+	for range 2 {
+		func() {
+			defer func() {
+				if told := recover(); told != "enough" {
+					t.Errorf("P1: %v", told)
+				}
+			}()
+			for number := range all {
+				if number == 2 {
+					panic("enough")
+				}
+			}
+		}()
+		tryChunks(t, f, 6, chunk{1, "cd"}, chunk{2, "wxyz"}, chunk{3, "yzyz"})
+	}
+}
+
 // A file answers the same, whatever was asked of it, or of others, ahead.
 func TestReadAgain(t *testing.T) {
 	var files []*skipper.File
@@ -182,7 +232,7 @@ func TestReadAgain(t *testing.T) {
 		i := ask * 7919 % len(files)
 		f, all := files[i], tolds[i]
 		from := ask * 31 % f.Size()
-		switch count := 1 + ask*17%(f.Size()-from); ask % 5 {
+		switch count := 1 + ask*17%(f.Size()-from); ask % 7 {
 		case 0:
 			if got, want := f.Check(), wantCheck(all); !slices.Equal(got, want) {
 				t.Errorf("P1: Check() = %v, want %v", got, want)
@@ -191,6 +241,10 @@ func TestReadAgain(t *testing.T) {
 			tryRange(t, f, from, f.Size()-from+1)
 		case 2:
 			tryRead(t, f, from, 0, "")
+		case 3:
+			tryChunks(t, f, from, wantChunks(all, from)...)
+		case 4:
+			taken(f.Chunks(from), 1+ask%3)
 		default:
 			tryAsTold(t, f, all, from, count)
 		}
@@ -237,7 +291,7 @@ func TestPackAgain(t *testing.T) {
 // Nothing that is asked changes what another call answers, at the same time too.
 func TestAskedByManyAtOnce(t *testing.T) {
 	f := open(t, "SK1"+block(1, 6, one)+block(0, 6, two)+block(0, 1, "x")+block(1, 1, "\x00x"))
-	want := f.Blocks()
+	want, chunks := f.Blocks(), f.Chunks(4)
 	done := make(chan bool)
 	for range 8 {
 		go func() {
@@ -253,6 +307,8 @@ func TestAskedByManyAtOnce(t *testing.T) {
 				bad := f.Check()
 				ok = ok && slices.Equal(bad, []int{2})
 				bad[0] = 9
+				ok = ok && slices.Equal(taken(chunks, -1), []chunk{{0, "bc"}, {1, "abcabc"}})
+				ok = ok && slices.Equal(taken(f.Chunks(13), -1), []chunk{{3, "x"}})
 			}
 			done <- ok
 		}()

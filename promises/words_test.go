@@ -5,6 +5,7 @@ package promises
 
 import (
 	"encoding/binary"
+	"fmt"
 	"hash/adler32"
 	"strings"
 	"testing"
@@ -215,6 +216,32 @@ func wantCheck(all []told) []int {
 		if b.why != nil || b.follows {
 			list = append(list, i)
 		}
+	}
+	return list
+}
+
+// chunk is what Chunks yields at once: the number of a block, and its data.
+type chunk struct {
+	number int
+	data   string
+}
+
+// String keeps what a failing test prints short.
+func (c chunk) String() string {
+	return fmt.Sprintf("%d:%.40q", c.number, c.data)
+}
+
+// wantChunks tells what is yielded from a byte on, which may be none of the data.
+func wantChunks(all []told, from int) []chunk {
+	var list []chunk
+	for i, b := range all {
+		if from < 0 || from >= b.From+b.Size {
+			continue
+		}
+		if b.why != nil || b.follows {
+			break
+		}
+		list = append(list, chunk{i, b.data[max(0, from-b.From):]})
 	}
 	return list
 }

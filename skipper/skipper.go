@@ -80,4 +80,20 @@ func (f *File) Check() []int {
 }
 
 // Chunks yields the data of blocks (P6).
-func (f *File) Chunks(from int) iter.Seq2[int, string] { return func(yield func(int, string) bool) {} }
+func (f *File) Chunks(from int) iter.Seq2[int, string] {
+	return func(yield func(int, string) bool) {
+		if from < 0 || from >= f.Size() {
+			return
+		}
+		start := f.blockOf(from)
+		first := f.lastFresh(start)
+		base := f.entries[first].From
+		// The error is left aside: damage ends the chunks, they do not tell it.
+		_ = f.unpackEach(first, len(f.entries)-1, func(n int, data []byte) bool {
+			if n < start {
+				return true // unpacked only because copies may reach back to it
+			}
+			return yield(n, string(data[max(from, f.entries[n].From)-base:]))
+		})
+	}
+}
